@@ -372,6 +372,22 @@ func TestUnified(t *testing.T) {
 	}
 }
 
+// P12.2: what doesn't matter of a type isn't in an answer: so both are the same.
+func TestOps(t *testing.T) {
+	odd := kind.Type{Op: -4, Num: 9, Text: "l", Kids: []kind.Type{{Op: 7, Num: 1, Text: "int"}, {Num: 3, Text: "x"}}}
+	s := kind.New()
+	if e, f := s.Unify(kind.Var(1), odd), s.Unify(odd, ty("(l int '2)")); e != api.OK || f != api.OK {
+		t.Errorf("%d, %d", e, f)
+	}
+	full(t, s, "'1", "(l int '2)")
+	if x, e := s.Full(odd); e != api.OK || !same(x, ty("(l int '2)")) {
+		t.Errorf("%v, %d", x, e)
+	}
+	if x := kind.Swap(odd, []int{3}, []kind.Type{{Op: 2, Num: 2, Text: "unit"}}); !same(x, ty("(l int unit)")) {
+		t.Errorf("%v", x)
+	}
+}
+
 // plainly unifies by putting each variable's type in its place everywhere at once.
 func plainly(known map[int]kind.Type, a, b kind.Type) api.Errno {
 	a, b = swapAll(known, a), swapAll(known, b)
@@ -423,8 +439,9 @@ func TestHandedIn(t *testing.T) {
 	vars[:3][1], by[:3][1] = 2, ty("spare")
 	s := kind.New()
 	unify(t, s, "'1 = int")
-	if e, f := s.Unify(kind.Var(5), x), s.Unify(kind.Con("l", x), ty("'6")); e != api.OK || f != api.OK {
-		t.Errorf("%d, %d", e, f)
+	within := kind.Type{Op: 1, Text: "l", Kids: []kind.Type{x}}
+	if e, f, g := s.Unify(kind.Var(5), x), s.Unify(within, ty("'6")), s.Unify(ty("(l '7)"), within); e != api.OK || f != api.OK || g != api.OK {
+		t.Errorf("%d, %d, %d", e, f, g)
 	}
 	made := kind.Con("made", room...)
 	got, _ := s.Full(x)
@@ -439,6 +456,7 @@ func TestHandedIn(t *testing.T) {
 	spoil(by[:3])
 	full(t, s, "'5", "(p (q int '2) int)")
 	full(t, s, "'6", "(l (p (q int '2) int))")
+	full(t, s, "'7", "(p (q int '2) int)")
 	if tell(made) != "(made (q '1 '2) '1)" || tell(got) != "(p (q int '2) int)" || tell(swapped) != "(p (q (l '9) '2) (l '9))" {
 		t.Errorf("kept: %s, %s, %s", tell(made), tell(got), tell(swapped))
 	}
@@ -504,11 +522,12 @@ func TestAnyType(t *testing.T) {
 	// A variable is its number alone.
 	x := kind.Type{Num: 4, Text: "x", Kids: wide(2000).Kids}
 	s := kind.New()
-	if got, e := s.Full(kind.Con("l", x)); e != api.OK || tell(got) != "(l '4)" || kind.Show(x) != "'a" || !slices.Equal(kind.Vars(x), []int{4}) {
+	if got, e := s.Full(kind.Type{Op: 1, Text: "l", Kids: []kind.Type{x}}); e != api.OK || tell(got) != "(l '4)" || kind.Show(x) != "'a" || !slices.Equal(kind.Vars(x), []int{4}) {
 		t.Errorf("%d, %s", e, tell(got))
 	}
-	if e := s.Unify(kind.Var(1), x); e != api.OK {
-		t.Errorf("%d", e)
+	x.Kids[0] = kind.Var(8)
+	if e := s.Unify(kind.Var(1), x); e != api.OK || !slices.Equal(kind.Vars(x), []int{4}) {
+		t.Errorf("%d, %v", e, kind.Vars(x))
 	}
 	full(t, s, "'1", "'4")
 }
